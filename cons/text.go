@@ -22,19 +22,22 @@ func Text(c api.Con) string {
 	return string(append(out, ')'))
 }
 
-// appendArg writes an argument. One that is no array, but has not one term, is none; it is written as an array, so that each text can be read again.
+// appendArg writes an argument. Only an array has brackets: one that is none is its terms, however many they are.
 func appendArg(out []byte, a api.Arg) []byte {
-	if !a.Array && len(a.L) == 1 {
-		return appendTerm(out, a.L[0])
+	if !a.Array {
+		return appendTerms(out, a.L)
 	}
-	out = append(out, '[')
-	for i, t := range a.L {
+	return append(appendTerms(append(out, '['), a.L), ']')
+}
+
+func appendTerms(out []byte, l []api.Term) []byte {
+	for i, t := range l {
 		if i > 0 {
 			out = append(out, between...)
 		}
 		out = appendTerm(out, t)
 	}
-	return append(out, ']')
+	return out
 }
 
 func appendTerm(out []byte, t api.Term) []byte {
@@ -76,7 +79,7 @@ func Parse(s string) (api.Con, api.Errno) {
 	return c, api.OK
 }
 
-// parseArgs is the arguments of what stands between the brackets; it takes more ways of writing than Text has.
+// parseArgs is the arguments of what stands between the brackets; it takes more ways of writing than Text has. What is no array is read as one term an argument, as it is in each constraint that can be; where nothing stands, the argument has none.
 func parseArgs(s string) ([]api.Arg, bool) {
 	if s == "" {
 		return nil, true
@@ -89,8 +92,9 @@ func parseArgs(s string) ([]api.Arg, bool) {
 		if !inside || begins {
 			out = append(out, api.Arg{Array: begins})
 		}
+		alone := !inside && begins == ends
 		inside = (inside || begins) && !ends
-		if begins && ends && part == "" {
+		if alone && part == "" {
 			continue
 		}
 		t, ok := parseTerm(part)

@@ -27,6 +27,11 @@ func TestText(t *testing.T) {
 		{api.Con{Name: "int_lin_le", Args: []api.Arg{cons.List(cons.Int(2), cons.Int(-1)), cons.List(cons.Var(0), cons.Var(3)), cons.One(cons.Int(5))}}, "int_lin_le([2, -1], [x0, x3], 5)"},
 		{api.Con{Name: "array_set_element", Args: []api.Arg{cons.One(cons.Var(10)), cons.List(cons.Set(), cons.Set(-1, 2, 30)), cons.One(cons.Set(4))}}, "array_set_element(x10, [{}, {-1,2,30}], {4})"},
 		{api.Con{Name: "bool_clause", Args: []api.Arg{cons.List(), cons.List(cons.Var(1))}}, "bool_clause([], [x1])"},
+		{api.Con{Args: []api.Arg{{}}}, "()"},
+		{api.Con{Args: []api.Arg{{L: []api.Term{}}, {}}}, "(, )"},
+		{api.Con{Name: "int_le", Args: []api.Arg{cons.One(cons.Var(0)), {}, cons.One(cons.Int(1))}}, "int_le(x0, , 1)"},
+		{api.Con{Name: "int_le", Args: []api.Arg{{L: []api.Term{cons.Int(1), cons.Var(2)}}, {L: []api.Term{cons.Set(1, 2), cons.Int(3), cons.Set()}}}}, "int_le(1, x2, {1,2}, 3, {})"},
+		{api.Con{Name: "int_le", Args: []api.Arg{cons.List(), {}, cons.List(cons.Int(4)), {L: []api.Term{cons.Int(5), cons.Int(6)}}, cons.List(cons.Int(7), cons.Int(8))}}, "int_le([], , [4], 5, 6, [7, 8])"},
 		{api.Con{Name: "x", Args: []api.Arg{cons.One(cons.Int(least)), cons.One(cons.Int(greatest)), cons.One(cons.Var(math.MaxInt))}}, "x(-9223372036854775808, 9223372036854775807, x9223372036854775807)"},
 		{api.Con{Name: "x", Args: []api.Arg{cons.One(api.Term{Var: 4, C: api.Val{Set: true, N: 2, S: []int64{1}}})}}, "x(x4)"},
 		{api.Con{Name: "x", Args: []api.Arg{cons.One(api.Term{Var: -1, C: api.Val{Set: true, N: 2, S: []int64{1}}})}}, "x({1})"},
@@ -103,6 +108,11 @@ func TestParseOfWhatCanNotBe(t *testing.T) {
 		"int_le(x1000000000, x0)":             term(cons.Var(api.Coef), cons.Var(0)),
 		"int_le({-1000000,1000000}, {})":      term(cons.Set(-maxBig, maxBig), cons.Set()),
 		"fzn_regular(0, 0)":                   term(cons.Int(0), cons.Int(0)),
+		"int_le(, )":                          {{}, {}},
+		"int_le(, x0)":                        {{}, cons.One(cons.Var(0))},
+		"int_le(x0, 1, )":                     {cons.One(cons.Var(0)), cons.One(cons.Int(1)), {}},
+		"int_le(x0, , 1)":                     {cons.One(cons.Var(0)), {}, cons.One(cons.Int(1))},
+		"int_le([], , [4], 5, 6, [7, 8], , )": {cons.List(), {}, cons.List(cons.Int(4)), cons.One(cons.Int(5)), cons.One(cons.Int(6)), cons.List(cons.Int(7), cons.Int(8)), {}, {}},
 	} {
 		got, e := cons.Parse(s)
 		if want := (api.Con{Name: s[:strings.Index(s, "(")], Args: args}); e != api.OK || !cons.Same(got, want) {
@@ -125,7 +135,7 @@ func TestParseWrong(t *testing.T) {
 	for _, s := range []string{
 		"", "(", ")", "()", "int_le", "int_le(", "int_le)", "int_le())", "int_le(()", "int_le()()", " int_le()", "int_le ()", "int_le( )", "int_le() ", "int_le()\n",
 		"foo()", "foo(x0)", "Int_le(x0, 1)", "int_l(x0, 1)", "int_le_(x0, 1)", "(x0, 1)", "int_le int_lt(x0, 1)", "int_le\x00(1)",
-		"int_le(x0,1)", "int_le(x0,  1)", "int_le(x0 , 1)", "int_le( x0, 1)", "int_le(x0, 1 )", "int_le(x0, 1, )", "int_le(, x0)", "int_le(,)", "int_le(, )", "int_le(x0, , 1)", "int_le(x0;1)", "int_le(x0\t, 1)",
+		"int_le(x0,1)", "int_le(x0,  1)", "int_le(x0 , 1)", "int_le( x0, 1)", "int_le(x0, 1 )", "int_le(x0, 1,)", "int_le(,x0)", "int_le(,)", "int_le(,, )", "int_le( , )", "int_le(,  )", "int_le(x0, ], 1)", "int_le([, 1)", "int_le([, ], 1)", "int_le([x0, , x1])", "int_le([x0, []])", "int_le([x0, [])", "int_le(x0;1)", "int_le(x0\t, 1)",
 		"int_le(01)", "int_le(-0)", "int_le(+1)", "int_le(--1)", "int_le(-)", "int_le(1_0)", "int_le(0x1)", "int_le(1e3)", "int_le(1.0)", "int_le(- 1)", "int_le(１)", "int_le(1)1", "int_le(true)",
 		"int_le(x)", "int_le(x-1)", "int_le(x-0)", "int_le(x+1)", "int_le(x01)", "int_le(X0)", "int_le(y0)", "int_le(xx0)", "int_le(x 0)", "int_le(x0x)",
 		"int_le(1000000001)", "int_le(-1000000001)", "int_le(x1000000001)", "int_le(x9223372036854775808)", "int_le(9223372036854775807)", "int_le(-9223372036854775808)", "int_le(99999999999999999999999999)",
