@@ -5,6 +5,7 @@ import (
 
 	"jigsaw/api"
 	"jigsaw/dom"
+	"jigsaw/kinds"
 	"jigsaw/sets"
 )
 
@@ -32,56 +33,22 @@ func narrower(d api.Dom) func(api.Dom) api.Dom {
 	return wholeDom(d).with
 }
 
-// canBe: is it a domain that can be?
-func canBe(d api.Dom) bool {
-	if d.Set {
-		return sets.Right(d)
-	}
-	return dom.Right(d.R) && len(d.Lo) == 0 && len(d.Up) == 0 && d.Least == 0 && d.Most == 0
-}
-
 // tight is a domain that can be, with memory of its own; one of a set is made tight by what is in both it and itself.
 func tight(d api.Dom) api.Dom {
 	return narrower(d)(d)
 }
 
-// copied is a domain as it is, with memory of its own.
-func copied(d api.Dom) api.Dom {
-	d.R, d.Lo, d.Up = slices.Clone(d.R), slices.Clone(d.Lo), slices.Clone(d.Up)
-	return d
-}
-
 // emptiness is 1 of an empty domain that can be, else 0.
 func emptiness(d api.Dom) int {
-	if d.Set && d.Least > d.Most || !d.Set && len(d.R) == 0 {
+	if kinds.Empty(d) {
 		return 1
 	}
 	return 0
 }
 
-// same: have two domains of one kind the same values?
-func same(a, b api.Dom) bool {
-	if a.Set {
-		return sets.Same(a, b)
-	}
-	return dom.Same(a.R, b.R)
-}
-
-// only is the only value; false, if there is none, or there are several.
-func only(d api.Dom) (api.Val, bool) {
-	if d.Set {
-		l, ok := sets.Fixed(d)
-		return api.Val{Set: ok, S: l}, ok
-	}
-	if dom.Size(d.R) != 1 {
-		return api.Val{}, false
-	}
-	return api.Val{N: d.R[0].Lo}, true
-}
-
 // change is what happened to a domain that became smaller, and not empty.
 func change(old, next api.Dom) int {
-	if _, ok := only(next); ok {
+	if _, ok := kinds.Only(next); ok {
 		return Fixed
 	}
 	if !sameBounds(old, next) {
