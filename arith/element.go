@@ -7,7 +7,7 @@ import (
 	"jigsaw/cons"
 	"jigsaw/dom"
 	"jigsaw/family"
-	"jigsaw/sets"
+	"jigsaw/kinds"
 )
 
 // element is a constraint that y is the row of an array whose number is the index; 1 is the first.
@@ -80,7 +80,7 @@ func (l element) narrowSets(d *family.Doms) {
 		rows[i] = t.C.S
 	}
 	y := d.Get(l.y)
-	good := indexes(d.Get(l.index).R, rows, func(s []int64) bool { return sets.Has(y, s) })
+	good := indexes(d.Get(l.index).R, rows, func(s []int64) bool { return kinds.Has(y, api.Val{Set: true, S: s}) })
 	values := make([][]int64, len(good))
 	for k, i := range good {
 		values[k] = rows[i-1]

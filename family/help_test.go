@@ -107,14 +107,6 @@ func values(d api.Dom) []api.Val {
 	return out
 }
 
-// has: is that value in the domain?
-func has(d api.Dom, v api.Val) bool {
-	if d.Set {
-		return sets.Has(d, v.S)
-	}
-	return dom.Has(d.R, v.N)
-}
-
 // assignments is all values of these variables within d; the others have the zero value of their kind.
 func assignments(d []api.Dom, vars []int) iter.Seq[[]api.Val] {
 	v := make([]api.Val, len(d))

@@ -128,7 +128,7 @@ func (w world) checkDoms(d, got []api.Dom, what int) string {
 			return fmt.Sprint("empty, or not tight: ", tellDom(got[n]))
 		}
 		for _, v := range values(got[n]) {
-			if !has(d[n], v) {
+			if !kinds.Has(d[n], v) {
 				return fmt.Sprint("more than there was of ", n)
 			}
 		}
@@ -139,7 +139,7 @@ func (w world) checkDoms(d, got []api.Dom, what int) string {
 	}
 	for _, v := range w.good {
 		for _, n := range w.vars {
-			if !has(got[n], v[n]) {
+			if !kinds.Has(got[n], v[n]) {
 				return fmt.Sprint("lost: ", v)
 			}
 		}

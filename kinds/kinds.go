@@ -44,6 +44,14 @@ func Both(a, b api.Dom) api.Dom {
 	return api.Dom{R: dom.Both(a.R, b.R)}
 }
 
+// Has: is v, a value of its kind that can be, one of a domain's?
+func Has(d api.Dom, v api.Val) bool {
+	if d.Set {
+		return sets.Has(d, v.S)
+	}
+	return dom.Has(d.R, v.N)
+}
+
 // Same: have two domains of one kind the same values?
 func Same(a, b api.Dom) bool {
 	if a.Set {

@@ -64,6 +64,18 @@ func TestValues(t *testing.T) {
 	}
 }
 
+func TestHas(t *testing.T) {
+	numbers, some := num(api.Range{Lo: 1, Hi: 3}), set(list(1), list(1, 2), 1, 2)
+	for n := range int64(5) {
+		if kinds.Has(numbers, api.Val{N: n}) != (n >= 1 && n <= 3) {
+			t.Error("Has", n)
+		}
+	}
+	if !kinds.Has(some, api.Val{Set: true, S: list(1, 2)}) || kinds.Has(some, api.Val{Set: true, S: list(2)}) || kinds.Has(some, api.Val{Set: true}) {
+		t.Error("Has of sets")
+	}
+}
+
 // A copy is as it was, and goes its own way.
 func TestCopy(t *testing.T) {
 	odd := api.Dom{Set: true, R: []api.Range{{Lo: 2, Hi: 1}}, Lo: list(9), Up: list(3, 2), Least: -1, Most: 7}
