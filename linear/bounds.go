@@ -52,6 +52,11 @@ func (p *part) raise(v int64) {
 	p.lo = max(p.lo, v, p.in[p.first].Lo)
 }
 
+// shorter: did it lose anything?
+func (p *part) shorter() bool {
+	return p.lo > p.in[0].Lo || p.hi < p.in[len(p.in)-1].Hi
+}
+
 // leastOf is the least of some values.
 func leastOf[T cmp.Ordered](first T, more ...T) T {
 	for _, x := range more {
@@ -182,7 +187,9 @@ func (b *bounds) apart() bool {
 // hand takes from the domains what was taken from the parts.
 func (b *bounds) hand(d *family.Doms) {
 	for _, p := range b.parts {
-		d.Cut(cons.Var(p.v), p.lo, p.hi)
+		if p.shorter() {
+			d.Cut(cons.Var(p.v), p.lo, p.hi)
+		}
 	}
 	if b.twins() {
 		x, y := cons.Var(b.parts[0].v), cons.Var(b.parts[1].v)

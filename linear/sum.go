@@ -18,7 +18,7 @@ const (
 	atMost
 )
 
-// sum is what a constraint asks but for its truth: how the sum of coefficients times terms is held against a total. By the limits of arrays, coefficients and values it is at most 1000 times 10^9 times 10^6 and some more, so that no sum, and no difference of two of them, is beyond 64 bits.
+// sum is what a constraint asks but for a truth that hangs on it: how the sum of coefficients times terms is held against a total. By the limits of arrays, coefficients and values it is at most 1000 times 10^9 times 10^6 and some more, so that no sum, and no difference of two of them, is beyond 64 bits.
 type sum struct {
 	coefs []int64
 	terms []api.Term
@@ -26,12 +26,11 @@ type sum struct {
 	total int64
 }
 
-// sumOf reads a constraint that can be. What stands on the right side is taken away on the left one, for it may be a variable.
+// sumOf reads a constraint on which no truth hangs. What stands on the right side is taken away on the left one, for it may be a variable.
 func sumOf(c api.Con) sum {
-	name := strings.TrimSuffix(strings.TrimSuffix(c.Name, reif), imp)
-	s := sum{how: relationOf(name)}
+	s := sum{how: relationOf(c.Name)}
 	right := c.Args[1].L
-	if strings.Contains(name, "_lin_") {
+	if strings.Contains(c.Name, "_lin_") {
 		for i, coef := range c.Args[0].L {
 			s.add(coef.C.N, right[i])
 		}
@@ -40,7 +39,7 @@ func sumOf(c api.Con) sum {
 		s.add(1, c.Args[0].L[0])
 	}
 	s.add(-1, right[0])
-	if name == "int_lt" {
+	if c.Name == "int_lt" {
 		s.total = -1
 	}
 	return s
@@ -61,8 +60,8 @@ func (s *sum) add(coef int64, t api.Term) {
 	s.terms = append(s.terms, t)
 }
 
-// holds: does it hold of values?
-func (s sum) holds(v []api.Val) (bool, api.Errno) {
+// Holds: does it hold of values?
+func (s sum) Holds(v []api.Val) (bool, api.Errno) {
 	numbers := make([]int64, len(s.terms))
 	for i, t := range s.terms {
 		x, e := cons.Of(t, v)
@@ -101,13 +100,11 @@ func (s sum) negated() sum {
 	return s
 }
 
-// possible: may it hold within the domains, as far as can be seen?
-func (s sum) possible(d *family.Doms) bool {
-	return s.within(d).tighten()
-}
-
-// enforce takes away values with which it can not hold.
-func (s sum) enforce(d *family.Doms) {
+// Enforce takes away values with which it can not hold, or can not but hold.
+func (s sum) Enforce(d *family.Doms, so bool) {
+	if !so {
+		s = s.negated()
+	}
 	b := s.within(d)
 	switch {
 	case !b.tighten():
