@@ -14,6 +14,8 @@ import (
 	"jigsaw/dom"
 	"jigsaw/kinds"
 	"jigsaw/linear"
+	"jigsaw/logic"
+	"jigsaw/setcon"
 	"jigsaw/sets"
 )
 
@@ -38,6 +40,8 @@ func faces() []face {
 	return []face{
 		{"linear", linear.Holds, linear.Prune, linearModel},
 		{"arith", arith.Holds, arith.Prune, arithModel},
+		{"logic", logic.Holds, logic.Prune, logicModel},
+		{"setcon", setcon.Holds, setcon.Prune, setconModel},
 	}
 }
 
@@ -194,15 +198,15 @@ func hull(l []api.Val) api.Dom {
 	return out
 }
 
-// game draws constraints and domains: variables 0 to 3 are whole numbers, 4 and 5 are sets.
+// game draws constraints and domains: variables 0 to 3 are whole numbers, 4 to 6 are sets.
 type game struct{ *rand.Rand }
 
-const gameVars = 6
+const gameVars = 7
 
 func newGame(seed uint64) game { return game{rand.New(rand.NewPCG(seed, 1))} }
 
 // gameKinds is which variables are sets.
-func gameKinds() []bool { return []bool{false, false, false, false, true, true} }
+func gameKinds() []bool { return []bool{false, false, false, false, true, true, true} }
 
 // anyNumber is a number: mostly a small one, now and then one whose powers go beyond.
 func (g game) anyNumber() int64 {
@@ -226,7 +230,7 @@ func (g game) anySet() []int64 {
 func (g game) term(letter string) api.Term {
 	if strings.Contains("IBS", letter) && g.IntN(4) > 0 {
 		if letter == "S" {
-			return cons.Var(4 + g.IntN(2))
+			return cons.Var(4 + g.IntN(3))
 		}
 		return cons.Var(g.IntN(4))
 	}

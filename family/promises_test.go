@@ -16,7 +16,11 @@ func each(t *testing.T, run func(t *testing.T, f face, name string, g game)) {
 		n := uint64(0)
 		for name := range names(f) {
 			n++
-			t.Run(name, func(t *testing.T) { run(t, f, name, newGame(n)) })
+			g := newGame(n)
+			t.Run(name, func(t *testing.T) {
+				t.Parallel()
+				run(t, f, name, g)
+			})
 		}
 		if n == 0 {
 			t.Error("no constraints of", f.name)
@@ -24,7 +28,7 @@ func each(t *testing.T, run func(t *testing.T, f face, name string, g game)) {
 	}
 }
 
-// P7.1, P8.1: Holds is what the document says it means, truths that are none, too.
+// P7.1, P8.1, P9.1, P10.1: Holds is what the document says it means, truths that are none, too.
 func TestHolds(t *testing.T) {
 	each(t, func(t *testing.T, f face, name string, g game) {
 		seen := map[answer]int{}
@@ -170,7 +174,7 @@ func (w world) checkLast(got []api.Dom, what int) string {
 	return ""
 }
 
-// P7.2 to P7.5, P8.2 to P8.5: small constraints over small domains, against all assignments.
+// P7.2 to P7.5, P8.2 to P8.5, P9.2 to P9.5, P10.2 to P10.5: small constraints over small domains, against all assignments.
 func TestPrune(t *testing.T) {
 	each(t, func(t *testing.T, f face, name string, g game) {
 		seen := map[int]int{}
@@ -221,6 +225,9 @@ func TestPruneMemory(t *testing.T) {
 					if len(d[n].Lo) > 0 {
 						d[n].Lo[0] = -77
 					}
+					if len(d[n].Up) > 0 {
+						d[n].Up[0] = -78
+					}
 				}
 				if !sameDoms(second, rest) {
 					t.Fatal("two lists share memory:", told(c, kept))
@@ -243,7 +250,7 @@ func renumbered(c api.Con, to []int) api.Con {
 	return out
 }
 
-// P7.7, P8.7: the numbers of variables play no part; of Prune neither.
+// P7.7, P8.7, P9.6, P10.6: the numbers of variables play no part; of Prune neither.
 func TestRenumbered(t *testing.T) {
 	each(t, func(t *testing.T, f face, name string, g game) {
 		for range 300 {

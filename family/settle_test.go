@@ -19,7 +19,7 @@ func idle(name string, test family.Test) family.Rules {
 	}
 }
 
-// P7.5, P8.5: a whole number that is left is tried value by value, up to MaxScan of them; one that goes beyond among them is ErrOver.
+// P7.5, P8.5, P9.5, P10.5: a whole number that is left is tried value by value, up to MaxScan of them; one that goes beyond among them is ErrOver.
 func TestNumberLeft(t *testing.T) {
 	c := api.Con{Name: "int_le", Args: []api.Arg{cons.One(cons.Var(0)), cons.One(cons.Var(1))}}
 	odd := idle("linear", func(v []api.Val) (bool, api.Errno) { return v[0].N%2 == 1 && v[1].N == 5, api.OK })
@@ -49,7 +49,7 @@ func TestNumberLeft(t *testing.T) {
 	}
 }
 
-// P8.5: a set that is left is tried set by set; its domain becomes the smallest one that has all that hold.
+// P8.5, P10.5: a set that is left is tried set by set; its domain becomes the smallest one that has all that hold.
 func TestSetLeft(t *testing.T) {
 	c := api.Con{Name: "set_subset", Args: []api.Arg{cons.One(cons.Var(0)), cons.One(cons.Var(1))}}
 	one := set(list(7), list(7), 1, 1)
@@ -84,7 +84,7 @@ func TestSetLeft(t *testing.T) {
 	}
 }
 
-// P8.2: sets' domains of the constraint's variables are made tight, those of others stay as they are; that is no change.
+// P8.2, P10.2: sets' domains of the constraint's variables are made tight, those of others stay as they are; that is no change.
 func TestTight(t *testing.T) {
 	c := api.Con{Name: "set_subset", Args: []api.Arg{cons.One(cons.Var(0)), cons.One(cons.Var(1))}}
 	rules := idle("setcon", func(v []api.Val) (bool, api.Errno) { return true, api.OK })
