@@ -95,25 +95,13 @@ func (l element) narrowVariables(d *family.Doms) {
 	in := func(t api.Term) []api.Range { return d.Get(t).R }
 	good := indexes(in(l.index), l.rows, func(t api.Term) bool { return len(dom.Both(in(t), y)) > 0 })
 	d.KeepOnly(l.index, good)
-	l.narrowValue(d, good)
-	if len(good) == 1 {
-		row := l.rows[good[0]-1]
-		d.Keep(row, d.Get(l.y))
-		d.Keep(l.y, d.Get(row))
+	rows := make([]api.Term, len(good))
+	for k, i := range good {
+		rows[k] = l.rows[i-1]
 	}
-}
-
-// narrowValue takes from y what none of these rows can be. (Where that would come to too many ranges, nothing.)
-func (l element) narrowValue(d *family.Doms, good []int64) {
-	none := d.Get(l.y).R
-	for _, i := range good {
-		rest, e := dom.Less(none, d.Get(l.rows[i-1]).R)
-		if e != api.OK {
-			return
-		}
-		none = rest
-	}
-	if some, e := dom.Less(d.Get(l.y).R, none); e == api.OK {
-		d.Keep(l.y, api.Dom{R: some})
+	d.KeepSome(l.y, rows)
+	if len(rows) == 1 {
+		d.Keep(rows[0], d.Get(l.y))
+		d.Keep(l.y, d.Get(rows[0]))
 	}
 }

@@ -1,6 +1,8 @@
 package family
 
 import (
+	"sort"
+
 	"jigsaw/api"
 	"jigsaw/dom"
 	"jigsaw/kinds"
@@ -51,6 +53,17 @@ func (d *Doms) Bounds(t api.Term) (int64, int64) {
 	return l[0].Lo, l[len(l)-1].Hi
 }
 
+// Fixed is the only value of a whole number; false, if it has several.
+func (d *Doms) Fixed(t api.Term) (int64, bool) {
+	lo, hi := d.Bounds(t)
+	return lo, lo == hi
+}
+
+// Can: may a whole number be v?
+func (d *Doms) Can(t api.Term, v int64) bool {
+	return dom.Has(d.Get(t).R, v)
+}
+
 // put gives a term another domain within its own.
 func (d *Doms) put(t api.Term, next api.Dom) {
 	switch {
@@ -73,12 +86,82 @@ func (d *Doms) KeepOnly(t api.Term, values []int64) {
 	}
 }
 
+// KeepCommon leaves each of some whole numbers what all of them can be.
+func (d *Doms) KeepCommon(l []api.Term) {
+	if len(l) == 0 {
+		return
+	}
+	common := d.Get(l[0])
+	for _, t := range l {
+		common = kinds.Both(common, d.Get(t))
+	}
+	for _, t := range l {
+		d.Keep(t, common)
+	}
+}
+
+// KeepSome takes from a whole number what none of these terms can be. (Where that would come to too many ranges, nothing.)
+func (d *Doms) KeepSome(t api.Term, others []api.Term) {
+	none := d.Get(t).R
+	for _, o := range others {
+		if len(none) == 0 {
+			return
+		}
+		rest, e := dom.Less(none, d.Get(o).R)
+		if e != api.OK {
+			return
+		}
+		none = rest
+	}
+	if some, e := dom.Less(d.Get(t).R, none); e == api.OK {
+		d.Keep(t, api.Dom{R: some})
+	}
+}
+
 // Cut takes from a whole number what is not from lo to hi.
 func (d *Doms) Cut(t api.Term, lo, hi int64) {
 	d.put(t, api.Dom{R: dom.Cut(d.Get(t).R, lo, hi)})
 }
 
+// Leave takes these values from a whole number: as many of them as its ranges have room for.
+func (d *Doms) Leave(t api.Term, values []int64) {
+	in := d.Get(t).R
+	l, e := without(in, values)
+	if e == api.ErrFull {
+		l, e = without(in, fitting(in, values))
+	}
+	if e == api.OK {
+		d.put(t, api.Dom{R: l})
+	}
+}
+
 // Drop takes one value from a whole number.
 func (d *Doms) Drop(t api.Term, v int64) {
 	d.put(t, api.Dom{R: dom.Without(d.Get(t).R, v)})
+}
+
+// without is ranges without some values.
+func without(in []api.Range, values []int64) ([]api.Range, api.Errno) {
+	gone, e := dom.Of(values...)
+	if e != api.OK {
+		return nil, e
+	}
+	return dom.Less(in, gone)
+}
+
+// fitting is those of some values without which right ranges are not too many. One from within a range parts it in two; the others make none more.
+func fitting(in []api.Range, values []int64) []int64 {
+	var out []int64
+	room := api.MaxRanges - len(in)
+	for _, v := range values {
+		at := sort.Search(len(in), func(i int) bool { return in[i].Hi > v })
+		if at < len(in) && in[at].Lo < v {
+			if room == 0 {
+				continue
+			}
+			room--
+		}
+		out = append(out, v)
+	}
+	return out
 }

@@ -3,7 +3,6 @@ package setcon
 import (
 	"jigsaw/api"
 	"jigsaw/cons"
-	"jigsaw/dom"
 	"jigsaw/family"
 	"jigsaw/sets"
 )
@@ -28,18 +27,10 @@ func (m member) Enforce(d *family.Doms, so bool) {
 		d.KeepOnly(m.x, d.Get(m.s).Up)
 		d.Keep(m.s, sets.Card(d.Get(m.s), 1, api.MaxElems))
 	} else {
-		m.leave(d)
+		d.Leave(m.x, d.Get(m.s).Lo)
 	}
 	if lo, hi := d.Bounds(m.x); lo == hi {
 		d.Keep(m.s, part(d.Get(m.s), lo))
-	}
-}
-
-// leave takes from x what s has for sure. (Where that would come to too many ranges, nothing.)
-func (m member) leave(d *family.Doms) {
-	in, _ := dom.Of(d.Get(m.s).Lo...)
-	if l, e := dom.Less(d.Get(m.x).R, in); e == api.OK {
-		d.Keep(m.x, api.Dom{R: l})
 	}
 }
 
