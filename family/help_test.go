@@ -11,10 +11,12 @@ import (
 	"jigsaw/api"
 	"jigsaw/arith"
 	"jigsaw/cons"
+	"jigsaw/count"
 	"jigsaw/dom"
 	"jigsaw/kinds"
 	"jigsaw/linear"
 	"jigsaw/logic"
+	"jigsaw/seq"
 	"jigsaw/setcon"
 	"jigsaw/sets"
 )
@@ -42,6 +44,8 @@ func faces() []face {
 		{"arith", arith.Holds, arith.Prune, arithModel},
 		{"logic", logic.Holds, logic.Prune, logicModel},
 		{"setcon", setcon.Holds, setcon.Prune, setconModel},
+		{"count", count.Holds, count.Prune, countModel},
+		{"seq", seq.Holds, seq.Prune, seqModel},
 	}
 }
 
@@ -243,27 +247,51 @@ func (g game) term(letter string) api.Term {
 	return cons.Int(g.anyNumber())
 }
 
-// con is a constraint of that name that can be.
+// con is a constraint of that name that can be. Its arrays have as many terms, or, now and then, each another number of them.
 func (g game) con(name string) api.Con {
 	for {
 		c := api.Con{Name: name}
-		size := g.IntN(4)
+		size, alike := g.IntN(5), g.IntN(3) > 0
 		for _, part := range strings.Split(cons.Form(name), ",") {
 			letter, array := strings.CutPrefix(part, "a")
 			if !array {
 				c.Args = append(c.Args, cons.One(g.term(letter)))
 				continue
 			}
-			var l []api.Term
-			for range size {
-				l = append(l, g.term(letter))
+			if !alike {
+				size = g.IntN(5)
 			}
-			c.Args = append(c.Args, cons.List(l...))
+			c.Args = append(c.Args, g.array(letter, size))
+		}
+		switch {
+		case name == "fzn_table_int":
+			c.Args[1] = g.array("i", len(c.Args[0].L)*g.IntN(6))
+		case name == "fzn_regular":
+			g.automaton(c)
 		}
 		if cons.Right(c, gameKinds()) == api.OK {
 			return c
 		}
 	}
+}
+
+func (g game) array(letter string, size int) api.Arg {
+	var l []api.Term
+	for range size {
+		l = append(l, g.term(letter))
+	}
+	return cons.List(l...)
+}
+
+// automaton gives fzn_regular states and letters, and a table of them.
+func (g game) automaton(c api.Con) {
+	states, letters := 1+g.Int64N(3), 1+g.Int64N(4)
+	var table []api.Term
+	for range states * letters {
+		table = append(table, cons.Int(g.Int64N(states+1)))
+	}
+	c.Args[1], c.Args[2] = cons.One(cons.Int(states)), cons.One(cons.Int(letters))
+	c.Args[3], c.Args[4] = cons.List(table...), cons.One(cons.Int(1+g.Int64N(states)))
 }
 
 // doms is domains that can be: often of one value, now and then of none.

@@ -26,10 +26,31 @@ func leftOver() map[string][]string {
 			"set_in(x0, {-9,5,990,991})", "set_in(x0, {})", "set_in(x0, {992})", "set_in_reif(x0, {-9,5,990}, x1)", "set_in_reif(x0, {-9,5,990}, 0)", "set_in_reif(x0, {0,1,2}, x0)", "set_in_reif(x0, {0}, x0)", "set_in_imp(x0, {1,3}, x1)", "set_in_imp(x0, {1,3}, 0)", "set_in_imp(x0, {0}, x0)", "set_in_imp(x1, {3}, x0)",
 			"set_card({1,3,5}, x0)", "set_card({}, x0)", "set_eq_reif({1}, {1}, x0)", "set_ne_reif({1}, {1}, x0)", "set_subset_reif({1}, {1,2}, x0)", "set_superset_reif({1}, {1,2}, x0)", "set_le_reif({1}, {1,2}, x0)", "set_lt_reif({1,2}, {1}, x0)",
 		},
+		"count": {
+			"fzn_all_different_int([x0, x1, 7])", "fzn_all_different_int([x0, x0])", "fzn_all_different_int([x0, 3, x1, 3])", "fzn_all_different_int([x0])", "fzn_all_equal_int([x0, x1])", "fzn_all_equal_int([x0, 3, x1])", "fzn_all_equal_int([x0, x0])",
+			"fzn_global_cardinality([x0, x1, 5], [1, 5], [2, 1])", "fzn_global_cardinality([x0, x1, 5], [1, 5], [1, 1])", "fzn_global_cardinality([x1, 1, 5], [1], [x0])", "fzn_global_cardinality([x0, x1], [0, 1], [x0, 1])", "fzn_global_cardinality([x0, x1], [1, 2000000], [1, 0])", "fzn_global_cardinality([x0, x1], [1, 2000000], [1, 1])", "fzn_global_cardinality([x1, 4], [1000000000, -5], [x0, x0])",
+			"fzn_global_cardinality_closed([x0, x1, 5], [1, 5, 9], [1, 1, 1])", "fzn_global_cardinality_closed([x0, x1], [1, 2], [x0, 1])", "fzn_global_cardinality_closed([x0], [], [])", "fzn_global_cardinality_closed([x1, 3], [1, 3], [1, x0])", "fzn_global_cardinality_closed([x0, x0], [1, 4], [0, 2])",
+			"fzn_count_eq([x0, x1, 1], x1, 2)", "fzn_count_eq([x0, x1, 1], x1, 3)", "fzn_count_eq([1, x1, 7, 7], x0, 2)", "fzn_count_eq([1, x1, 7, 7], x0, 0)", "fzn_count_eq([1, x1, 7], x1, x0)", "fzn_count_eq([x0, 3, x1], x0, x1)", "fzn_count_eq([x0, 2, 2], 2, x0)", "fzn_count_eq([], x0, 0)", "fzn_count_eq([], 3, x0)",
+			"fzn_among(x0, [x1, 2, 7], {1,2,3})", "fzn_among(1, [x0, 2], {-9,2,980})", "fzn_among(2, [x0, 2], {-9,2,980})", "fzn_among(3, [x0, 2], {2})", "fzn_among(0, [x0, x1], {})", "fzn_among(x0, [x0, 2], {1,2})", "fzn_among(x0, [], {1,2})",
+			"fzn_nvalue(x0, [x1, 1, 7])", "fzn_nvalue(2, [x0, x1, 7])", "fzn_nvalue(3, [x0, x1, 7])", "fzn_nvalue(1, [x0, x1])", "fzn_nvalue(x0, [x0, x1])", "fzn_nvalue(x0, [])", "fzn_nvalue(1, [x0, x0])", "fzn_nvalue(4, [x0, x1, 7])",
+			"fzn_at_most_int(1, [x0, x1], 1)", "fzn_at_most_int(-1, [x0], 1)", "fzn_at_most_int(0, [x0, x0], 4)", "fzn_at_most_int(0, [x0], 1000000000)", "fzn_at_most_int(9, [x0], 4)", "fzn_at_least_int(1, [x0, x1], 4)", "fzn_at_least_int(2, [x0, x0], 4)", "fzn_at_least_int(3, [x0, x1], 1)", "fzn_at_least_int(-5, [x0], 1)", "fzn_at_least_int(1, [x0], -1000000000)",
+			"fzn_value_precede_int(1, 2, [x0, x1, 2])", "fzn_value_precede_int(3, 1, [x0, x1])", "fzn_value_precede_int(1, 3, [x0, x1])", "fzn_value_precede_int(1, 3, [x1, x0])", "fzn_value_precede_int(1, 1, [x0, x1])", "fzn_value_precede_int(8, 9, [x0, x0])", "fzn_value_precede_int(2000000, 9, [x0])", "fzn_value_precede_int(9, 2000000, [x0])",
+		},
+		"seq": {
+			"fzn_lex_less_int([x0, x1], [5, 1])", "fzn_lex_less_int([x0], [5, 1])", "fzn_lex_less_int([1, x0], [x1, 8])", "fzn_lex_less_int([1, 8], [x1, x0])", "fzn_lex_less_int([x0], [x0])", "fzn_lex_less_int([x0], [x0, x1])", "fzn_lex_less_int([x0, 2], [x0, x1])", "fzn_lex_less_int([], [x0])", "fzn_lex_less_int([x0], [])",
+			"fzn_lex_lesseq_int([x0, x1], [5, 1])", "fzn_lex_lesseq_int([x0, x1], [5, 0])", "fzn_lex_lesseq_int([x0, 1], [5])", "fzn_lex_lesseq_int([5, 1], [x0])", "fzn_lex_lesseq_int([x0], [x0])", "fzn_lex_lesseq_int([x0, x1], [x1, x0])",
+			"fzn_sort([x0, x1, 4], [1, 4, 77])", "fzn_sort([x0, x1, 4], [1, 3, 77])", "fzn_sort([7, x1, 4], [1, x0, 7])", "fzn_sort([x0, x1], [x0, x1])", "fzn_sort([x0, x1], [x1, x0])", "fzn_sort([x0], [x0])", "fzn_sort([x0, 3], [x0, x0])",
+			"fzn_increasing_int([0, x0, x1, 3])", "fzn_increasing_int([x1, x0, 70])", "fzn_increasing_int([x0, x1, x0])", "fzn_strictly_increasing_int([x1, x0, 70])", "fzn_strictly_increasing_int([x0, x0])", "fzn_strictly_increasing_int([x1, x0, 2])", "fzn_decreasing_int([70, x0, x1])", "fzn_decreasing_int([0, x0, x1])", "fzn_decreasing_int([x0])",
+			"fzn_inverse([x0, x1], [2, 1])", "fzn_inverse([2, 3, x1], [3, x0, 2])", "fzn_inverse([x0, x0], [x1, 2])", "fzn_inverse([x1], [x0])", "fzn_inverse([x0], [x0])", "fzn_inverse([2, 4], [x0, 1])", "fzn_inverse([3, 2, x0], [3, 2, x0])",
+			"fzn_maximum_int(x0, [x1, 5, 3])", "fzn_maximum_int(5, [x1, x0, 3])", "fzn_maximum_int(5, [x1, x0, 5])", "fzn_maximum_int(x0, [x0, x1])", "fzn_maximum_int(5, [x0, 6])", "fzn_minimum_int(x0, [x1, 5, 3])", "fzn_minimum_int(x1, [x0, 3])", "fzn_minimum_int(x1, [x0, x1])", "fzn_minimum_int(x0, [x0, x1])", "fzn_minimum_int(5, [x0, 4])",
+			"fzn_member_int([x1, 5, 3], x0)", "fzn_member_int([x0, 5, 3], x1)", "fzn_member_int([x0, x1], x1)", "fzn_member_int([x1, x0], x0)", "fzn_member_int([], x0)",
+			"fzn_table_int([x0, x1], [1, 1, 2, 2, 7, 1, 7, 1, 2000, 1])", "fzn_table_int([x0, x0], [1, 1, 2, 1, 7, 7])", "fzn_table_int([x1, x0], [2, 5, 3, 6])", "fzn_table_int([x0], [])", "fzn_table_int([x0], [1000000000, 5])",
+			"fzn_regular([x0, x1], 2, 2, [1, 2, 2, 0], 1, {2})", "fzn_regular([x0], 2, 3, [1, 2, 2, 0, 1, 1], 1, {2})", "fzn_regular([x1, x0, x0], 2, 3, [1, 2, 2, 0, 1, 1], 1, {1})", "fzn_regular([x0], 1, 2, [1, 1], 1, {})", "fzn_regular([x0, x1], 1, 2, [0, 0], 1, {1})", "fzn_regular([x0], 2, 1, [2, 2], 1, {0,2,3})",
+		},
 	}
 }
 
-// P7.5, P8.5, P9.5, P10.5: one is left, with MaxScan values and with one more; of these nothing that holds is lost.
+// P7.5, and so of chapters 8 to 12: one is left, with MaxScan values and with one more; of these nothing that holds is lost.
 func TestOneLeft(t *testing.T) {
 	for _, f := range faces() {
 		for _, text := range leftOver()[f.name] {

@@ -7,6 +7,7 @@ import (
 
 	"jigsaw/api"
 	"jigsaw/cons"
+	"jigsaw/family"
 	"jigsaw/kinds"
 )
 
@@ -28,7 +29,7 @@ func each(t *testing.T, run func(t *testing.T, f face, name string, g game)) {
 	}
 }
 
-// P7.1, P8.1, P9.1, P10.1: Holds is what the document says it means, truths that are none, too.
+// P7.1, and so of chapters 8 to 12: Holds is what the document says it means, truths that are none, too.
 func TestHolds(t *testing.T) {
 	each(t, func(t *testing.T, f face, name string, g game) {
 		seen := map[answer]int{}
@@ -66,10 +67,20 @@ type world struct {
 	good  [][]api.Val // of which it holds
 	over  bool        // of some it can not be said
 	empty bool        // one of vars has no value
+	just  bool        // just what is in some assignment may be left
+}
+
+// just: does the document promise of a constraint that just what is in some assignment is left? (P11.6, P12.6)
+func just(c api.Con) bool {
+	switch c.Name {
+	case "fzn_all_different_int", "fzn_table_int", "fzn_regular":
+		return !family.Twice(c.Args[0].L)
+	}
+	return false
 }
 
 func worldOf(f face, c api.Con, d []api.Dom) world {
-	w := world{vars: cons.Vars(c)}
+	w := world{vars: cons.Vars(c), just: just(c)}
 	for _, n := range w.vars {
 		size := len(values(d[n]))
 		w.empty = w.empty || size == 0
@@ -113,7 +124,7 @@ func (w world) check(c api.Con, d, got []api.Dom, what int, e api.Errno) string 
 		return "Fail, and domains"
 	case what == api.Fail:
 		return ""
-	case w.empty || len(got) != len(d):
+	case w.empty || len(got) != len(d) || w.just && len(w.good) == 0:
 		return "not Fail, or not as many"
 	}
 	return w.checkDoms(d, got, what)
@@ -148,7 +159,21 @@ func (w world) checkDoms(d, got []api.Dom, what int) string {
 			}
 		}
 	}
+	for _, n := range w.vars {
+		if want := w.projection(n); w.just && !sameDom(got[n], want) {
+			return fmt.Sprint("not just what can be of ", n, ": ", tellDom(got[n]), " want ", tellDom(want))
+		}
+	}
 	return w.checkLast(got, what)
+}
+
+// projection is the smallest domain of a variable that has all with which it holds.
+func (w world) projection(n int) api.Dom {
+	var out []api.Val
+	for _, v := range w.good {
+		out = append(out, v[n])
+	}
+	return hull(out)
 }
 
 // checkLast: where all variables have one value, it is decided; where one is left, it has just what holds.
@@ -164,17 +189,13 @@ func (w world) checkLast(got []api.Dom, what int) string {
 		return ""
 	}
 	n := w.open[0]
-	var left []api.Val
-	for _, v := range w.good {
-		left = append(left, v[n])
-	}
-	if want := hull(left); !sameDom(got[n], want) {
+	if want := w.projection(n); !sameDom(got[n], want) {
 		return fmt.Sprint("one is left: ", tellDom(got[n]), " want ", tellDom(want))
 	}
 	return ""
 }
 
-// P7.2 to P7.5, P8.2 to P8.5, P9.2 to P9.5, P10.2 to P10.5: small constraints over small domains, against all assignments.
+// P7.2 to P7.5, and so of chapters 8 to 12, P11.6, P12.6: small constraints over small domains, against all assignments.
 func TestPrune(t *testing.T) {
 	each(t, func(t *testing.T, f face, name string, g game) {
 		seen := map[int]int{}
@@ -250,7 +271,7 @@ func renumbered(c api.Con, to []int) api.Con {
 	return out
 }
 
-// P7.7, P8.7, P9.6, P10.6: the numbers of variables play no part; of Prune neither.
+// P7.7, P8.7, P9.6, P10.6, P11.7, P12.7: the numbers of variables play no part; of Prune neither.
 func TestRenumbered(t *testing.T) {
 	each(t, func(t *testing.T, f face, name string, g game) {
 		for range 300 {
