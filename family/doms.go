@@ -1,6 +1,7 @@
 package family
 
 import (
+	"slices"
 	"sort"
 
 	"jigsaw/api"
@@ -133,6 +134,37 @@ func (d *Doms) Leave(t api.Term, values []int64) {
 	if e == api.OK {
 		d.put(t, api.Dom{R: l})
 	}
+}
+
+// LeaveRanges takes the values of some ranges, in any order, from a whole number. Where its ranges have no room for what is left, only those go that are below or above all of that.
+func (d *Doms) LeaveRanges(t api.Term, ranges []api.Range) {
+	gone, e := dom.Norm(near(ranges))
+	if e != api.OK {
+		return
+	}
+	if l, e := dom.Less(d.Get(t).R, gone); e == api.OK {
+		d.put(t, api.Dom{R: l})
+		return
+	}
+	for _, r := range gone {
+		if lo, _ := d.Bounds(t); r.Lo <= lo && lo <= r.Hi {
+			d.Cut(t, r.Hi+1, api.Big)
+		}
+	}
+	for _, r := range slices.Backward(gone) {
+		if _, hi := d.Bounds(t); r.Lo <= hi && hi <= r.Hi {
+			d.Cut(t, -api.Big, r.Lo-1)
+		}
+	}
+}
+
+// near is the same ranges, but for what is beyond Big.
+func near(ranges []api.Range) []api.Range {
+	out := make([]api.Range, len(ranges))
+	for i, r := range ranges {
+		out[i] = api.Range{Lo: max(r.Lo, -api.Big), Hi: min(r.Hi, api.Big)}
+	}
+	return out
 }
 
 // Drop takes one value from a whole number.

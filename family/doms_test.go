@@ -64,6 +64,13 @@ func TestDomsWork(t *testing.T) {
 		{func(d *family.Doms) { d.Leave(z, list(3, 4)) }, "fail"},
 		{func(d *family.Doms) { d.Leave(cons.Int(4), list(3)) }, "1..9 3..5,8..12 4"},
 		{func(d *family.Doms) { d.Leave(cons.Int(4), list(3, 4)) }, "fail"},
+		{func(d *family.Doms) { d.LeaveRanges(x, nil) }, "1..9 3..5,8..12 4"},
+		{func(d *family.Doms) { d.LeaveRanges(x, []api.Range{r(6, 7), r(3, 4), r(4, 4), r(9, 2)}) }, "1..2,5,8..9 3..5,8..12 4"},
+		{func(d *family.Doms) { d.LeaveRanges(y, []api.Range{r(5, 9), r(-3*maxBig, 3), r(12, 3*maxBig)}) }, "1..9 4,10..11 4"},
+		{func(d *family.Doms) { d.LeaveRanges(y, []api.Range{r(-3*maxBig, -2*maxBig), r(2*maxBig, 3*maxBig)}) }, "1..9 3..5,8..12 4"},
+		{func(d *family.Doms) { d.LeaveRanges(y, []api.Range{r(3, 6), r(8, 12)}) }, "fail"},
+		{func(d *family.Doms) { d.LeaveRanges(cons.Int(4), []api.Range{r(5, 6)}) }, "1..9 3..5,8..12 4"},
+		{func(d *family.Doms) { d.LeaveRanges(cons.Int(4), []api.Range{r(3, 6)}) }, "fail"},
 	} {
 		if got := worked(t, from, s.takes); got != s.want {
 			t.Error(got, "want", s.want)
@@ -116,6 +123,37 @@ func TestLeaveFull(t *testing.T) {
 			}
 		})
 	}
+}
+
+// Where there is no room for what is left of all ranges, what is below and above it goes.
+func TestLeaveRangesFull(t *testing.T) {
+	var full []api.Range
+	for i := range int64(api.MaxRanges) {
+		full = append(full, r(4*i, 4*i+2))
+	}
+	last := full[len(full)-1].Hi
+	for _, s := range []struct {
+		ranges []api.Range
+		lo, hi int64
+		fits   bool
+	}{
+		{[]api.Range{r(5, 5)}, 0, last, false}, {[]api.Range{r(5, 5), r(-5, 1)}, 2, last, false}, {[]api.Range{r(5, 5), r(last-1, last+1)}, 0, last - 2, false}, {[]api.Range{r(9, 9), r(17, 17), r(2, 4), r(last, last), r(-3, 1)}, 5, last - 1, false}, {[]api.Range{r(0, 6), r(9, 9)}, 8, last, true}, {[]api.Range{r(0, 0), r(13, 13), r(17, 17), r(last-5, last)}, 1, last - 6, false},
+	} {
+		worked(t, []api.Dom{num(full...)}, func(d *family.Doms) {
+			d.LeaveRanges(cons.Var(0), s.ranges)
+			lo, hi := d.Bounds(cons.Var(0))
+			gone, _ := dom.Norm(s.ranges)
+			if left := dom.Both(d.Get(cons.Var(0)).R, gone); lo != s.lo || hi != s.hi || s.fits != (len(left) == 0) {
+				t.Error("LeaveRanges", s.ranges, lo, hi, dom.Text(left))
+			}
+		})
+	}
+	worked(t, []api.Dom{num(full...)}, func(d *family.Doms) {
+		d.LeaveRanges(cons.Var(0), full)
+		if lo, hi := d.Bounds(cons.Var(0)); lo != 0 || hi != last {
+			t.Error("what fails must stay", lo, hi)
+		}
+	})
 }
 
 // Values of terms, and a variable that stands twice.
