@@ -16,6 +16,7 @@ import (
 	"jigsaw/kinds"
 	"jigsaw/linear"
 	"jigsaw/logic"
+	"jigsaw/sched"
 	"jigsaw/seq"
 	"jigsaw/setcon"
 	"jigsaw/sets"
@@ -46,6 +47,7 @@ func faces() []face {
 		{"setcon", setcon.Holds, setcon.Prune, setconModel},
 		{"count", count.Holds, count.Prune, countModel},
 		{"seq", seq.Holds, seq.Prune, seqModel},
+		{"sched", sched.Holds, sched.Prune, schedModel},
 	}
 }
 

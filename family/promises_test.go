@@ -29,7 +29,7 @@ func each(t *testing.T, run func(t *testing.T, f face, name string, g game)) {
 	}
 }
 
-// P7.1, and so of chapters 8 to 12: Holds is what the document says it means, truths that are none, too.
+// P7.1, and so of chapters 8 to 13: Holds is what the document says it means, truths that are none, too.
 func TestHolds(t *testing.T) {
 	each(t, func(t *testing.T, f face, name string, g game) {
 		seen := map[answer]int{}
@@ -195,7 +195,7 @@ func (w world) checkLast(got []api.Dom, what int) string {
 	return ""
 }
 
-// P7.2 to P7.5, and so of chapters 8 to 12, P11.6, P12.6: small constraints over small domains, against all assignments.
+// P7.2 to P7.5, and so of chapters 8 to 13, P11.6, P12.6: small constraints over small domains, against all assignments.
 func TestPrune(t *testing.T) {
 	each(t, func(t *testing.T, f face, name string, g game) {
 		seen := map[int]int{}
@@ -271,7 +271,7 @@ func renumbered(c api.Con, to []int) api.Con {
 	return out
 }
 
-// P7.7, P8.7, P9.6, P10.6, P11.7, P12.7: the numbers of variables play no part; of Prune neither.
+// P7.7, P8.7, P9.6, P10.6, P11.7, P12.7, P13.7: the numbers of variables play no part; of Prune neither.
 func TestRenumbered(t *testing.T) {
 	each(t, func(t *testing.T, f face, name string, g game) {
 		for range 300 {

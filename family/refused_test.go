@@ -108,7 +108,7 @@ func refuses(t *testing.T, f face, c api.Con, v []api.Val, d []api.Dom, want api
 	}
 }
 
-// P7.1, P7.2, and so of chapters 8 to 12: a name of another family, or none, is refused first, whatever else is wrong.
+// P7.1, P7.2, and so of chapters 8 to 13: a name of another family, or none, is refused first, whatever else is wrong.
 func TestOtherFamilies(t *testing.T) {
 	for _, f := range faces() {
 		for name := range cons.Names() {
@@ -120,7 +120,7 @@ func TestOtherFamilies(t *testing.T) {
 			refuses(t, f, c, nil, nil, api.ErrKind)
 			refuses(t, f, api.Con{Name: name}, []api.Val{{N: maxBig + 1}}, []api.Dom{num(r(2, 1))}, api.ErrKind)
 		}
-		for _, name := range []string{"", "int", "int_eq ", " int_abs", "INT_EQ", "int_lin_lt", "float_eq", f.name, "\xff", "bool_lin_le_reif", "array_set_element_reif", "bool_le_imp", "bool2int_reif", "bool_and_reif", "array_bool_xor_reif", "set_card_reif", "set_union_reif", "set_subset_imp", "set_gt", "_reif", "_imp", "fzn_all_different", "all_different_int", "fzn_all_different_int_reif", "fzn_count_le", "fzn_among_imp", "fzn_table_bool", "fzn_regular_nfa", "fzn_strictly_decreasing_int", "fzn_"} {
+		for _, name := range []string{"", "int", "int_eq ", " int_abs", "INT_EQ", "int_lin_lt", "float_eq", f.name, "\xff", "bool_lin_le_reif", "array_set_element_reif", "bool_le_imp", "bool2int_reif", "bool_and_reif", "array_bool_xor_reif", "set_card_reif", "set_union_reif", "set_subset_imp", "set_gt", "_reif", "_imp", "fzn_all_different", "all_different_int", "fzn_all_different_int_reif", "fzn_count_le", "fzn_among_imp", "fzn_table_bool", "fzn_regular_nfa", "fzn_strictly_decreasing_int", "fzn_circuit_int", "circuit", "fzn_cumulative_reif", "fzn_disjunctive_strict", "fzn_diffn_nonstrict", "fzn_bin_packing_", "fzn_bin_packing_capacity", "fzn_"} {
 			refuses(t, f, api.Con{Name: name}, nil, nil, api.ErrKind)
 			refuses(t, f, api.Con{Name: name, Args: []api.Arg{cons.One(cons.Var(0)), cons.One(cons.Var(1))}}, make([]api.Val, 2), rightDoms(make([]bool, 2)), api.ErrKind)
 		}
@@ -156,7 +156,7 @@ func broken(c api.Con, vars int) map[api.Errno][]api.Con {
 	return out
 }
 
-// P7.1, P7.2, and so of chapters 8 to 12: what can not be is refused as cons.Right does, ahead of values and domains that can not be; these only of the constraint's own variables.
+// P7.1, P7.2, and so of chapters 8 to 13: what can not be is refused as cons.Right does, ahead of values and domains that can not be; these only of the constraint's own variables.
 func TestRefused(t *testing.T) {
 	each(t, func(t *testing.T, f face, name string, _ game) {
 		c, isSet := sample(name)
@@ -184,7 +184,7 @@ func TestRefused(t *testing.T) {
 	})
 }
 
-// P7.1, P7.2, and so of chapters 8 to 12: a value or a domain of each variable of the constraint that can not be.
+// P7.1, P7.2, and so of chapters 8 to 13: a value or a domain of each variable of the constraint that can not be.
 func TestWrongValuesAndDomains(t *testing.T) {
 	each(t, func(t *testing.T, f face, name string, _ game) {
 		c, isSet := sample(name)
@@ -225,7 +225,7 @@ func emptyDom(isSet bool) api.Dom {
 	return num()
 }
 
-// P7.2, and so of chapters 8 to 12: an empty domain of one of its variables is Fail; what other variables have plays no part, and stays as it is.
+// P7.2, and so of chapters 8 to 13: an empty domain of one of its variables is Fail; what other variables have plays no part, and stays as it is.
 func TestEmptyAndOthers(t *testing.T) {
 	each(t, func(t *testing.T, f face, name string, _ game) {
 		c, isSet := sample(name)

@@ -19,7 +19,7 @@ func idle(name string, test family.Test) family.Rules {
 	}
 }
 
-// P7.5, and so of chapters 8 to 12: a whole number that is left is tried value by value, up to MaxScan of them; one that goes beyond among them is ErrOver.
+// P7.5, and so of chapters 8 to 13: a whole number that is left is tried value by value, up to MaxScan of them; one that goes beyond among them is ErrOver.
 func TestNumberLeft(t *testing.T) {
 	c := api.Con{Name: "int_le", Args: []api.Arg{cons.One(cons.Var(0)), cons.One(cons.Var(1))}}
 	odd := idle("linear", func(v []api.Val) (bool, api.Errno) { return v[0].N%2 == 1 && v[1].N == 5, api.OK })
